@@ -6,6 +6,11 @@ import (
 	"schemes/api"
 )
 
+// expReader reads the text of an expression.
+type expReader struct {
+	*reader
+}
+
 // parse: the expression that a text is, or the error that Show tells of it.
 func parse(src string) (e exp, err error) {
 	defer func() {
@@ -13,10 +18,7 @@ func parse(src string) (e exp, err error) {
 			e, err = nil, refused(thrown)
 		}
 	}()
-	if len(src) > api.MaxText {
-		refuse(api.ErrLong)
-	}
-	r := newReader(src)
+	r := expReader{newReader(src)}
 	e = r.exp()
 	r.expectEnding()
 	// Only now: a fault of the text is told ahead of its depth, wherever it stands.
@@ -34,12 +36,12 @@ func isKeyword(text string) bool {
 	return false
 }
 
-func (r *reader) atName() bool {
+func (r expReader) atName() bool {
 	return r.next.kind == word && !isKeyword(r.next.text)
 }
 
 // newName reads a name that is none of those.
-func (r *reader) newName(taken ...string) string {
+func (r expReader) newName(taken ...string) string {
 	name := r.next.text
 	if !r.atName() || slices.Contains(taken, name) {
 		r.refuse()
@@ -48,7 +50,7 @@ func (r *reader) newName(taken ...string) string {
 	return name
 }
 
-func (r *reader) exp() exp {
+func (r expReader) exp() exp {
 	switch {
 	case r.is("fun"):
 		return r.funExp()
@@ -60,7 +62,7 @@ func (r *reader) exp() exp {
 	return r.atoms()
 }
 
-func (r *reader) funExp() exp {
+func (r expReader) funExp() exp {
 	r.expect("fun")
 	param := r.newName()
 	r.expect("->")
@@ -68,7 +70,7 @@ func (r *reader) funExp() exp {
 	return &funExp{partAbove(body), param, body}
 }
 
-func (r *reader) ifExp() exp {
+func (r expReader) ifExp() exp {
 	r.expect("if")
 	test := r.exp()
 	r.expect("then")
@@ -78,7 +80,7 @@ func (r *reader) ifExp() exp {
 	return &ifExp{partAbove(test, yes, no), test, yes, no}
 }
 
-func (r *reader) anyLet() exp {
+func (r expReader) anyLet() exp {
 	r.expect("let")
 	if r.is("rec") {
 		return r.recExp()
@@ -91,7 +93,7 @@ func (r *reader) anyLet() exp {
 	return &letExp{partAbove(value, body), name, value, body}
 }
 
-func (r *reader) recExp() exp {
+func (r expReader) recExp() exp {
 	r.expect("rec")
 	var names []string
 	var values []exp
@@ -110,7 +112,7 @@ func (r *reader) recExp() exp {
 	return &recExp{partAbove(below...), names, values, body}
 }
 
-func (r *reader) atoms() exp {
+func (r expReader) atoms() exp {
 	e := r.atom()
 	for r.atAtom() {
 		argument := r.atom()
@@ -119,11 +121,11 @@ func (r *reader) atoms() exp {
 	return e
 }
 
-func (r *reader) atAtom() bool {
+func (r expReader) atAtom() bool {
 	return r.atName() || r.next.kind == number || r.is("(")
 }
 
-func (r *reader) atom() exp {
+func (r expReader) atom() exp {
 	if !r.atAtom() {
 		r.refuse()
 	}
@@ -139,7 +141,7 @@ func (r *reader) atom() exp {
 }
 
 // bracketed reads on behind an opening bracket.
-func (r *reader) bracketed() exp {
+func (r expReader) bracketed() exp {
 	e := r.exp()
 	if r.is(",") {
 		r.advance()

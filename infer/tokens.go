@@ -29,6 +29,9 @@ type reader struct {
 }
 
 func newReader(src string) *reader {
+	if len(src) > api.MaxText {
+		refuse(api.ErrLong)
+	}
 	r := &reader{src: src}
 	r.advance()
 	return r
