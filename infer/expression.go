@@ -22,9 +22,11 @@ func partAbove(below ...exp) part {
 }
 
 type (
+	// nameExp: a name that is asked for, at a place of the text.
 	nameExp struct {
 		part
 		name string
+		at   int
 	}
 
 	numberExp struct {

@@ -36,6 +36,11 @@ func isKeyword(text string) bool {
 	return false
 }
 
+// isName: whether a whole text is a name.
+func isName(text string) bool {
+	return text != "" && len(text) <= api.MaxName && isLetter(text[0]) && leading(text, isLetterOrDigit) == len(text) && !isKeyword(text)
+}
+
 func (r expReader) atName() bool {
 	return r.next.kind == word && !isKeyword(r.next.text)
 }
@@ -133,7 +138,7 @@ func (r expReader) atom() exp {
 	r.advance()
 	switch t.kind {
 	case word:
-		return &nameExp{partAbove(), t.text}
+		return &nameExp{partAbove(), t.text, t.at}
 	case number:
 		return &numberExp{partAbove(), t.text}
 	}

@@ -19,7 +19,7 @@ func parseType(src string) (t typ, err error) {
 	t = r.typ()
 	r.expectEnding()
 	// Only now: a fault of the text is told ahead of its size, wherever it stands.
-	if size(t) > api.MaxSize {
+	if isAbove(api.MaxSize, t) {
 		refuse(api.ErrBig)
 	}
 	return t, nil
@@ -31,7 +31,7 @@ func (r typeReader) typ() typ {
 		return left
 	}
 	r.advance()
-	return &arrowType{left, r.typ()}
+	return &arrowType{from: left, to: r.typ()}
 }
 
 func (r typeReader) one() typ {
@@ -55,7 +55,7 @@ func (r typeReader) one() typ {
 func (r typeReader) variable(name string) *variable {
 	v, known := r.variables[name]
 	if !known {
-		v = &variable{name}
+		v = &variable{name: name}
 		r.variables[name] = v
 	}
 	return v
@@ -65,7 +65,7 @@ func (r typeReader) list() typ {
 	r.expect("[")
 	of := r.typ()
 	r.expect("]")
-	return &listType{of}
+	return &listType{of: of}
 }
 
 func (r typeReader) bracketed() typ {
@@ -73,7 +73,7 @@ func (r typeReader) bracketed() typ {
 	t := r.typ()
 	if r.is(",") {
 		r.advance()
-		t = &pairType{t, r.typ()}
+		t = &pairType{first: t, second: r.typ()}
 	}
 	r.expect(")")
 	return t

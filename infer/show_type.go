@@ -19,7 +19,7 @@ func showType(t typ, name func(*variable) string) string {
 }
 
 func (w *typeWriter) typ(t typ) {
-	switch t := t.(type) {
+	switch t := known(t).(type) {
 	case basicType:
 		w.text.WriteString(t.name)
 	case *variable:
@@ -43,7 +43,7 @@ func (w *typeWriter) typ(t typ) {
 
 // leftSide: an arrow there needs brackets, since arrows are read from the right.
 func (w *typeWriter) leftSide(t typ) {
-	if _, arrow := t.(*arrowType); !arrow {
+	if _, arrow := known(t).(*arrowType); !arrow {
 		w.typ(t)
 		return
 	}
