@@ -30,7 +30,7 @@ func told(err error) string {
 	case errors.As(err, &u):
 		return u.Name + " at " + strconv.Itoa(u.At)
 	}
-	for _, known := range []error{api.ErrLong, api.ErrDeep, api.ErrArg, api.ErrType, api.ErrBig, api.ErrFuel} {
+	for _, known := range []error{api.ErrLong, api.ErrDeep, api.ErrArg, api.ErrType, api.ErrBig, api.ErrFuel, api.ErrStopped} {
 		if errors.Is(err, known) {
 			return known.Error()
 		}
@@ -38,7 +38,7 @@ func told(err error) string {
 	return "no error of the document: " + err.Error()
 }
 
-// inferHolds: what is true of Infer at all texts, maps and numbers whatever.
+// inferHolds: what is true of Infer, and of Watch, at all texts, maps and numbers whatever.
 func inferHolds(t *testing.T, src string, env map[string]api.Typed, fuel int) {
 	t.Helper()
 	before := maps.Clone(env)
@@ -53,6 +53,10 @@ func inferHolds(t *testing.T, src string, env map[string]api.Typed, fuel int) {
 	if (got == "") != (err != nil) || strings.HasPrefix(told(err), "no error") {
 		t.Errorf("Infer(%q) = %q beside %v", src, got, err)
 	}
+	watchHolds(t, src, env, fuel, got, err)
+	if !maps.Equal(env, before) {
+		t.Errorf("Watch(%q) makes %v of the map %v", src, env, before)
+	}
 	_, errShow := infer.Show(src)
 	switch {
 	case errShow != nil && told(err) != told(errShow):
@@ -62,6 +66,24 @@ func inferHolds(t *testing.T, src string, env map[string]api.Typed, fuel int) {
 	case err == nil && len(got) <= api.MaxText:
 		if text, err := infer.Canon(got); text != got || err != nil {
 			t.Errorf("Infer(%q) = %q, of which Canon is %q, %v", src, got, text, err)
+		}
+	}
+}
+
+// watchHolds: with a watcher that stops nothing Watch answers as Infer does; one that does is called no more.
+func watchHolds(t *testing.T, src string, env map[string]api.Typed, fuel int, typ string, errInfer error) {
+	t.Helper()
+	got, rounds, err := watched(src, env, fuel, 0)
+	if got != typ || told(err) != told(errInfer) {
+		t.Errorf("Watch(%q, .., %d) = %q, %v, but Infer: %q, %v", src, fuel, got, err, typ, errInfer)
+	}
+	for _, stop := range []int{1, len(rounds)} {
+		if len(rounds) == 0 {
+			break
+		}
+		got, seen, err := watched(src, env, fuel, stop)
+		if got != "" || told(err) != api.ErrStopped.Error() || !slices.Equal(seen, rounds[:stop]) {
+			t.Errorf("Watch(%q, .., %d) stopped at %d = %q, %v with %q", src, fuel, stop, got, err, seen)
 		}
 	}
 }
@@ -93,7 +115,7 @@ func TestP1InferAtWrongTexts(t *testing.T) {
 
 func TestP1InferAtAllNumbers(t *testing.T) {
 	for fuel := -30; fuel < 30; fuel++ {
-		for _, src := range []string{"1", "y", "1 1", "(", "let rec f = f in f"} {
+		for _, src := range []string{"1", "y", "1 1", "(", "let rec f = f in f", "let rec f = g and g = 1 in f", "let rec f = fun x -> f in f"} {
 			inferHolds(t, src, nil, fuel)
 			inferHolds(t, src, given("X", "("), fuel)
 		}
@@ -196,7 +218,7 @@ func TestP1OneEquationThatMakesAHugeType(t *testing.T) {
 	}
 }
 
-// node: an expression as these tests have it: a name, a number, or one of fun, let, if, an application ("()") and a pair (",").
+// node: an expression as these tests have it: a name, a number, or one of fun, let, if, an application ("()"), a pair (",") and a let rec ("rec": its names with blanks between; below are what they are, and the expression behind in).
 type node struct {
 	head, name string
 	below      []node
@@ -222,6 +244,8 @@ func (e node) text(ahead string, own []string, use func(name string, at int, bou
 		test := e.below[0].text(ahead+"(if ", own, use)
 		yes := e.below[1].text(test+" then ", own, use)
 		return e.below[2].text(yes+" else ", own, use) + ")"
+	case "rec":
+		return e.textOfGroup(ahead, own, use)
 	}
 	between := " "
 	if e.head == "," {
@@ -231,10 +255,23 @@ func (e node) text(ahead string, own []string, use func(name string, at int, bou
 	return e.below[1].text(first+between, own, use) + ")"
 }
 
+func (e node) textOfGroup(ahead string, own []string, use func(name string, at int, bound bool)) string {
+	group := strings.Fields(e.name)
+	with := slices.Concat(own, group)
+	text, word := ahead+"(let rec ", ""
+	for k, g := range group {
+		text = e.below[k].text(text+word+g+" = ", with, use)
+		word = " and "
+	}
+	return e.below[len(group)].text(text+" in ", with, use) + ")"
+}
+
 // model types expressions by the document's words, in the plainest way: what has been found out is put into whole types.
 type model struct {
-	found map[string]tree
-	made  int
+	found      map[string]tree
+	made       int
+	fuel, stop int
+	rounds     []string
 }
 
 type modelScheme struct {
@@ -334,6 +371,8 @@ func (m *model) byKind(e node, names map[string]modelScheme) tree {
 		return m.instance(names[e.name])
 	case "number":
 		return tree{head: "int"}
+	case "rec":
+		return m.group(e, names)
 	case "fun":
 		x := m.fresh()
 		return tree{"->", []tree{x, m.typ(e.below[0], with(modelScheme{of: x}))}}
@@ -366,38 +405,45 @@ func modelNames(env map[string]tree) map[string]modelScheme {
 	return names
 }
 
-// answer: what Infer is to answer: the text, or what its error tells.
-func answer(e node, env map[string]tree) (src, text, told string) {
+// answer: what Watch is to answer, with a watcher that stops it at the stop-th round (0: never): the text, or what its error tells, and what was told of rounds.
+func answer(e node, env map[string]tree, fuel, stop int) (src, text, told string, rounds []string) {
 	src = e.text("", nil, func(name string, at int, bound bool) {
 		if _, stands := env[name]; !bound && !stands && told == "" {
 			told = name + " at " + strconv.Itoa(at)
 		}
 	})
 	if told != "" {
-		return src, "", told
+		return src, "", told, nil
 	}
+	m := &model{found: map[string]tree{}, fuel: fuel, stop: stop}
 	defer func() {
+		rounds = m.rounds
 		if err, is := recover().(error); is {
 			text, told = "", err.Error()
 		}
 	}()
-	m := &model{found: map[string]tree{}}
-	return src, m.typ(e, modelNames(env)).strict(), ""
+	return src, m.typ(e, modelNames(env)).strict(), "", nil
 }
 
-// agrees: that Infer answers what the model does; it tells what that is.
-func agrees(t *testing.T, e node, env map[string]tree, handed map[string]api.Typed) string {
+// agrees: that Infer and Watch answer what the model does; it tells what that is.
+func agrees(t *testing.T, e node, env map[string]tree, handed map[string]api.Typed, fuel, stop int) string {
 	t.Helper()
-	src, text, want := answer(e, env)
+	src, text, want, rounds := answer(e, env, fuel, stop)
 	if len(src) > api.MaxText {
 		return "long"
 	}
-	got, err := infer.Infer(src, handed, 1)
+	got, seen, err := watched(src, handed, fuel, stop)
 	if errors.Is(err, api.ErrDeep) {
 		return "deep"
 	}
-	if got != text || told(err) != want {
-		t.Errorf("Infer(%q) = %q, %v, want %q, %s", src, got, err, text, want)
+	if got != text || told(err) != want || !slices.Equal(seen, rounds) {
+		t.Errorf("Watch(%q, .., %d) = %q, %v with %q, want %q, %s with %q", src, fuel, got, err, seen, text, want, rounds)
+	}
+	if want == api.ErrStopped.Error() {
+		return want
+	}
+	if got, err := infer.Infer(src, handed, fuel); got != text || told(err) != want {
+		t.Errorf("Infer(%q, .., %d) = %q, %v, want %q, %s", src, fuel, got, err, text, want)
 	}
 	return want
 }
@@ -441,76 +487,113 @@ func TestP4EverySmallExpression(t *testing.T) {
 	seen := map[string]int{}
 	for parts := 1; parts <= 6; parts++ {
 		for _, e := range everyNode(parts, leaves) {
-			seen[agrees(t, e, env, handed(env))]++
+			seen[agrees(t, e, env, handed(env), 1, 0)]++
 		}
 	}
 	few := everyNode(2, leaves)
 	for _, a := range few {
 		for _, b := range few {
 			for _, c := range few {
-				seen[agrees(t, node{"fun", "x", []node{{"if", "", []node{a, b, c}}}}, env, handed(env))]++
+				seen[agrees(t, node{"fun", "x", []node{{"if", "", []node{a, b, c}}}}, env, handed(env), 1, 0)]++
 			}
 		}
 	}
 	// Within a function the names stand for something, so that types are what counts.
 	for _, e := range everyNode(7, []node{name("x"), name("y")}) {
 		e = node{"fun", "x", []node{{"let", "y", []node{name("x"), e}}}}
-		seen[agrees(t, e, env, handed(env))]++
+		seen[agrees(t, e, env, handed(env), 1, 0)]++
 	}
 	if seen[""] < 1000 || seen[api.ErrType.Error()] < 1000 {
 		t.Errorf("too few of a kind: %v", seen)
 	}
 }
 
-// scoped: an expression whose names mostly stand for something.
-func (m maker) scoped(budget int, own []string, env []string) node {
-	pick := func(from []string) string { return from[m.Intn(len(from))] }
-	if budget <= 1 {
-		switch k := m.Intn(40); {
-		case k == 0:
-			return name(pick([]string{"x", "q", "nothing", "f"}))
-		case k < 4:
-			return node{head: "number", name: pick([]string{"0", "7", "42"})}
-		case k < 26 && len(own) > 0:
-			return name(pick(own[max(0, len(own)-4):]))
-		}
-		return name(pick(env))
+// scoper makes expressions whose names mostly stand for something: by those that are handed in, or by the expression; groups: so many of ten that are no leaves are lets rec.
+type scoper struct {
+	maker
+	env    []string
+	groups int
+}
+
+func (m scoper) pick(from []string) string { return from[m.Intn(len(from))] }
+
+func (m scoper) leaf(own []string) node {
+	switch k := m.Intn(40); {
+	case k == 0:
+		return name(m.pick([]string{"x", "q", "nothing", "f"}))
+	case k < 4:
+		return node{head: "number", name: m.pick([]string{"0", "7", "42"})}
+	case k < 26 && len(own) > 0:
+		return name(m.pick(own[max(0, len(own)-4):]))
 	}
-	bind := pick([]string{"x", "y", "z", "f", "g", "eq"})
+	return name(m.pick(m.env))
+}
+
+func (m scoper) exp(budget int, own []string) node {
+	if budget <= 1 {
+		return m.leaf(own)
+	}
+	if m.Intn(10) < m.groups {
+		return m.group(budget, own)
+	}
+	bind := m.pick([]string{"x", "y", "z", "f", "g", "eq"})
 	with := slices.Concat(own, []string{bind})
 	switch m.Intn(9) {
 	case 0, 1:
-		return node{"fun", bind, []node{m.scoped(budget-1, with, env)}}
+		return node{"fun", bind, []node{m.exp(budget-1, with)}}
 	case 2, 3, 4:
-		return node{"let", bind, []node{m.scoped(budget/2, own, env), m.scoped(budget-1-budget/2, with, env)}}
+		return node{"let", bind, []node{m.exp(budget/2, own), m.exp(budget-1-budget/2, with)}}
 	case 5:
-		test := node{"()", "", []node{name("eq"), m.scoped(budget/4, own, env)}}
-		test = node{"()", "", []node{test, m.scoped(budget/4, own, env)}}
-		return node{"if", "", []node{test, m.scoped(budget/4, own, env), m.scoped(budget/4, own, env)}}
+		test := node{"()", "", []node{name("eq"), m.exp(budget/4, own)}}
+		test = node{"()", "", []node{test, m.exp(budget/4, own)}}
+		return node{"if", "", []node{test, m.exp(budget/4, own), m.exp(budget/4, own)}}
 	case 6:
-		return node{",", "", []node{m.scoped(budget/2, own, env), m.scoped(budget-1-budget/2, own, env)}}
+		return node{",", "", []node{m.exp(budget/2, own), m.exp(budget-1-budget/2, own)}}
 	}
-	return node{"()", "", []node{m.scoped(budget/3, own, env), m.scoped(budget-1-budget/3, own, env)}}
+	return node{"()", "", []node{m.exp(budget/3, own), m.exp(budget-1-budget/3, own)}}
 }
 
-func TestP4ExpressionsMadeAtRandom(t *testing.T) {
+// group: of one to three names; most of what they are, are functions.
+func (m scoper) group(budget int, own []string) node {
+	names := []string{"x", "y", "f", "g", "h"}
+	m.Shuffle(len(names), func(k, l int) { names[k], names[l] = names[l], names[k] })
+	names = names[:1+m.Intn(3)]
+	with, share := slices.Concat(own, names), (budget-1)/(len(names)+1)
+	var below []node
+	for range names {
+		if m.Intn(3) == 0 {
+			below = append(below, m.exp(share, with))
+			continue
+		}
+		bind := m.pick([]string{"u", "w", "x"})
+		below = append(below, node{"fun", bind, []node{m.exp(share, slices.Concat(with, []string{bind}))}})
+	}
+	return node{"rec", strings.Join(names, " "), append(below, m.exp(share, with))}
+}
+
+// library: what the expressions that are made at random have at hand.
+func library() map[string]tree {
 	v, u, list, pair := leaf("v"), leaf("vu"), tree{"[", []tree{leaf("v")}}, tree{",", []tree{leaf("v"), leaf("vu")}}
-	env := map[string]tree{
+	return map[string]tree{
 		"true": leaf("bool"), "nil": list, "cons": arrow(v, arrow(list, list)), "fst": arrow(pair, v), "snd": arrow(pair, u), "hd": arrow(list, v),
 		"add": arrow(leaf("int"), arrow(leaf("int"), leaf("int"))), "eq": arrow(v, arrow(v, leaf("bool"))), "n": v, "d": arrow(v, tree{",", []tree{v, v}}), "id": arrow(v, v),
 	}
-	names, m := slices.Sorted(maps.Keys(env)), maker{rand.New(rand.NewSource(4))}
+}
+
+func TestP4ExpressionsMadeAtRandom(t *testing.T) {
+	env := library()
+	m := scoper{maker{rand.New(rand.NewSource(4))}, slices.Sorted(maps.Keys(env)), 0}
 	seen := map[string]int{}
 	for range 60000 {
-		seen[agrees(t, m.scoped(1+m.Intn(26), nil, names), env, handed(env))]++
+		seen[agrees(t, m.exp(1+m.Intn(26), nil), env, handed(env), 1, 0)]++
 	}
 	// Rows of d make types that are about as big as they may be.
 	for range 4000 {
-		e := m.scoped(1+m.Intn(8), nil, names)
+		e := m.exp(1+m.Intn(8), nil)
 		for range m.Intn(7) {
 			e = node{"()", "", []node{name("d"), e}}
 		}
-		seen[agrees(t, node{",", "", []node{e, m.scoped(6, nil, names)}}, env, handed(env))]++
+		seen[agrees(t, node{",", "", []node{e, m.exp(6, nil)}}, env, handed(env), 1, 0)]++
 	}
 	if seen[""] < 10000 || seen[api.ErrType.Error()] < 10000 || seen[api.ErrBig.Error()] < 300 || len(seen) < 100 {
 		t.Errorf("too few of a kind: %d, %d, %d, %d", seen[""], seen[api.ErrType.Error()], seen[api.ErrBig.Error()], len(seen))
@@ -518,7 +601,7 @@ func TestP4ExpressionsMadeAtRandom(t *testing.T) {
 }
 
 func FuzzInfer(f *testing.F) {
-	for _, s := range []string{"", "fun x->x", "let i = fun x -> x in (i 1, i t)", "let rec f = x in f", "if t then x else y", "f (x y) 1", "(x, y, z)", "y", "fun x -> x x"} {
+	for _, s := range []string{"", "fun x->x", "let i = fun x -> x in (i 1, i t)", "let rec f = x in f", "let rec f = fun y -> f in f", "let rec f = g and g = 1 in f", "fun z -> let rec f = z and g = fun y -> f in (f, g)", "if t then x else y", "f (x y) 1", "(x, y, z)", "y", "fun x -> x x"} {
 		f.Add(s, "f", "a -> b", 1)
 	}
 	f.Add("x y", "x", "(", 13)

@@ -40,14 +40,14 @@ func Instance(general string, special string) (map[string]api.Typed, error) {
 
 // Infer: the type of an expression (P4, P5).
 func Infer(src string, env map[string]api.Typed, fuel int) (string, error) {
-	t, err := typeOfText(src, env, fuel)
-	if err != nil {
-		return "", err
-	}
-	return showType(t, namesInOrder()), nil
+	return Watch(src, env, fuel, nil)
 }
 
 // Watch: that, and each round of each group (P6).
 func Watch(src string, env map[string]api.Typed, fuel int, each func(names []string, round int, schemes []string) bool) (string, error) {
-	return "", nil
+	t, err := typing{fuel, each}.typeOfText(src, env)
+	if err != nil {
+		return "", err
+	}
+	return showType(t, namesInOrder()), nil
 }

@@ -18,11 +18,25 @@ type scope struct {
 type binding struct {
 	name    string
 	scheme  typ
+	param   bool
 	outside *binding
 }
 
 func (s scope) with(name string, scheme typ) scope {
-	return scope{&binding{name, scheme, s.own}, s.given}
+	return scope{&binding{name: name, scheme: scheme, outside: s.own}, s.given}
+}
+
+// withParam: with the name of a fun, whose type has variables that stand for themselves alone.
+func (s scope) withParam(name string, t typ) scope {
+	return scope{&binding{name: name, scheme: t, param: true, outside: s.own}, s.given}
+}
+
+// withGroup: with the names of a let rec.
+func (s scope) withGroup(names []string, schemes []typ) scope {
+	for k, name := range names {
+		s = s.with(name, schemes[k])
+	}
+	return s
 }
 
 func (s scope) find(name string) (scheme typ, stands bool) {
@@ -35,11 +49,13 @@ func (s scope) find(name string) (scheme typ, stands bool) {
 	return scheme, stands
 }
 
-// bound: all that stands within the types of the names, but for those that were handed in, which have no variables but general ones. Hidden names may be among them: what is typed here has no variables of theirs but those that others have as well.
+// bound: all that stands within the types of the names of funs. No other name has a variable that is neither general nor one of theirs. Hidden names may be among them: what is typed here has no variables of theirs but those that others have as well.
 func (s scope) bound() partSet {
 	parts := partSet{}
 	for b := s.own; b != nil; b = b.outside {
-		parts.add(b.scheme)
+		if b.param {
+			parts.add(b.scheme)
+		}
 	}
 	return parts
 }
@@ -89,9 +105,7 @@ func checkNames(e exp, names scope) {
 }
 
 func checkNamesOfGroup(e *recExp, names scope) {
-	for _, name := range e.names {
-		names = names.with(name, nil)
-	}
+	names = names.withGroup(e.names, make([]typ, len(e.names)))
 	for _, value := range e.values {
 		checkNames(value, names)
 	}

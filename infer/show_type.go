@@ -68,6 +68,22 @@ func namesInOrder() func(*variable) string {
 	}
 }
 
+// schemeTexts: the texts of schemes that stand one behind the other. General variables are named anew in each.
+func schemeTexts(schemes []typ) []string {
+	texts := make([]string, len(schemes))
+	own := namesInOrder()
+	for k, s := range schemes {
+		general := namesInOrder()
+		texts[k] = showType(s, func(v *variable) string {
+			if v.general {
+				return general(v)
+			}
+			return "_" + own(v)
+		})
+	}
+	return texts
+}
+
 // nameByNumber: a, b, .., z, a1, .., z1, a2 and so on, from 0 on.
 func nameByNumber(n int) string {
 	const letters = "abcdefghijklmnopqrstuvwxyz"

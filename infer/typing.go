@@ -2,8 +2,14 @@ package infer
 
 import "schemes/api"
 
+// typing: how an expression is typed: with how many rounds for each group, and who is told of them (nil: nobody).
+type typing struct {
+	fuel    int
+	watcher func(names []string, round int, schemes []string) bool
+}
+
 // typeOfText: the type of the expression that a text is, or the error that Infer tells.
-func typeOfText(src string, env map[string]api.Typed, fuel int) (t typ, err error) {
+func (by typing) typeOfText(src string, env map[string]api.Typed) (t typ, err error) {
 	defer func() {
 		if thrown := recover(); thrown != nil {
 			t, err = nil, refused(thrown)
@@ -13,7 +19,7 @@ func typeOfText(src string, env map[string]api.Typed, fuel int) (t typ, err erro
 	if err != nil {
 		return nil, err
 	}
-	if fuel < 1 || fuel > api.MaxFuel {
+	if by.fuel < 1 || by.fuel > api.MaxFuel {
 		return nil, api.ErrArg
 	}
 	names, err := givenScope(env)
@@ -21,12 +27,12 @@ func typeOfText(src string, env map[string]api.Typed, fuel int) (t typ, err erro
 		return nil, err
 	}
 	checkNames(e, names)
-	return typeOf(e, names), nil
+	return by.typeOf(e, names), nil
 }
 
 // typeOf: the type of a part, all of whose names stand for something.
-func typeOf(e exp, names scope) typ {
-	t := typeByKind(e, names)
+func (by typing) typeOf(e exp, names scope) typ {
+	t := by.typeByKind(e, names)
 	refuseBig(t)
 	return t
 }
@@ -37,27 +43,26 @@ func refuseBig(t typ) {
 	}
 }
 
-func typeByKind(e exp, names scope) typ {
+func (by typing) typeByKind(e exp, names scope) typ {
 	switch e := e.(type) {
 	case *nameExp:
 		return typeOfName(e, names)
 	case *funExp:
 		param := &variable{}
-		return &arrowType{from: param, to: typeOf(e.body, names.with(e.param, param))}
+		return &arrowType{from: param, to: by.typeOf(e.body, names.withParam(e.param, param))}
 	case *ifExp:
-		return typeOfIf(e, names)
+		return by.typeOfIf(e, names)
 	case *letExp:
-		value := typeOf(e.value, names)
+		value := by.typeOf(e.value, names)
 		generalize(value, names.bound())
-		return typeOf(e.body, names.with(e.name, value))
+		return by.typeOf(e.body, names.with(e.name, value))
 	case *applyExp:
-		return typeOfApply(e, names)
+		return by.typeOfApply(e, names)
 	case *pairExp:
-		first := typeOf(e.first, names)
-		return &pairType{first: first, second: typeOf(e.second, names)}
+		first := by.typeOf(e.first, names)
+		return &pairType{first: first, second: by.typeOf(e.second, names)}
 	case *recExp:
-		// No rounds are gone through yet, so that there are never enough.
-		refuse(api.ErrFuel)
+		return by.typeOfGroup(e, names)
 	}
 	// What is left is a number.
 	return basicType{"int"}
@@ -70,16 +75,16 @@ func typeOfName(e *nameExp, names scope) typ {
 	return fresh{}.instance(scheme)
 }
 
-func typeOfIf(e *ifExp, names scope) typ {
-	makeEqual(typeOf(e.test, names), basicType{"bool"})
-	yes := typeOf(e.yes, names)
-	makeEqual(yes, typeOf(e.no, names))
+func (by typing) typeOfIf(e *ifExp, names scope) typ {
+	makeEqual(by.typeOf(e.test, names), basicType{"bool"})
+	yes := by.typeOf(e.yes, names)
+	makeEqual(yes, by.typeOf(e.no, names))
 	return yes
 }
 
-func typeOfApply(e *applyExp, names scope) typ {
-	function := typeOf(e.function, names)
+func (by typing) typeOfApply(e *applyExp, names scope) typ {
+	function := by.typeOf(e.function, names)
 	result := &variable{}
-	makeEqual(function, &arrowType{from: typeOf(e.argument, names), to: result})
+	makeEqual(function, &arrowType{from: by.typeOf(e.argument, names), to: result})
 	return result
 }
