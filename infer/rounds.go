@@ -1,14 +1,10 @@
 package infer
 
 import (
-	"slices"
 	"strings"
 
 	"schemes/api"
 )
-
-// mostTold: the size of the biggest scheme that is told.
-const mostTold = 1_000_000
 
 // typeOfGroup: the type of a let rec.
 func (by typing) typeOfGroup(e *recExp, names scope) typ {
@@ -54,21 +50,20 @@ func (by typing) round(e *recExp, within, outside scope) []typ {
 	return schemes
 }
 
-// tell: the watcher, if there is one, is told of a round, and may stop all.
+// tell: the watcher, if there is one, is told of a round, and may stop all. What later bodies find out may make a scheme bigger than any memory, since only the next part that has such a type is refused: then there is no text that could be told.
 func (by typing) tell(names []string, round int, schemes []typ) {
-	if by.watcher == nil || slices.ContainsFunc(schemes, isUntold) {
+	if by.watcher == nil {
 		return
 	}
-	own := make([]string, len(names))
-	for k, name := range names {
-		own[k] = strings.Clone(name)
+	texts := layOutSchemes(schemes)
+	if areTooLong(texts) {
+		return
 	}
-	if !by.watcher(own, round, schemeTexts(schemes)) {
+	ownNames, ownTexts := make([]string, len(names)), make([]string, len(names))
+	for k, name := range names {
+		ownNames[k], ownTexts[k] = strings.Clone(name), texts[k].written()
+	}
+	if !by.watcher(ownNames, round, ownTexts) {
 		refuse(api.ErrStopped)
 	}
-}
-
-// isUntold: whether a scheme is too big for a text. What later bodies find out may make it bigger than any memory, since only the next part that has such a type is refused.
-func isUntold(scheme typ) bool {
-	return isAbove(mostTold, scheme)
 }
