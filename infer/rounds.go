@@ -50,7 +50,7 @@ func (by typing) round(e *recExp, within, outside scope) []typ {
 	return schemes
 }
 
-// tell: the watcher, if there is one, is told of a round, and may stop all. What later bodies find out may make a scheme bigger than any memory, since only the next part that has such a type is refused: then there is no text that could be told.
+// tell: the watcher, if there is one, is told of a round, and may stop all. What later bodies find out may make a scheme bigger than any memory, since only the next part that has such a type is refused: a round whose texts cannot be made is passed over, so that the call still ends.
 func (by typing) tell(names []string, round int, schemes []typ) {
 	if by.watcher == nil {
 		return

@@ -25,7 +25,7 @@ type piece struct {
 	from, to int64
 }
 
-// mostBytes: how long texts may be that are made: as long as the language lets a text be on every machine, since its length is an int. Beyond it there are texts that no memory holds, and asking for that much ends all, without an answer.
+// mostBytes: how long the texts of a round may be: what an int counts on every machine, since a text's length is one. Some line must be drawn: there are texts that no memory holds, and asking for that much cannot be recovered from.
 const mostBytes = math.MaxInt32
 
 // layOut: the text of a type, ahead of its making.
